@@ -1,12 +1,12 @@
 package event
 
 import (
-	"iter"
 	"slices"
 	"strconv"
 	"strings"
 
 	"testimony/api"
+	"testimony/texts"
 )
 
 // Text writes events, one a line: the process, the type, the kind, the key, A, B, the Result.
@@ -54,7 +54,7 @@ func Parse(text string) ([]Event, error) {
 		return nil, api.ErrLimit
 	}
 	var l []Event
-	for place, s := range lines(text) {
+	for place, s := range texts.Lines(text) {
 		w := words(s)
 		if len(w) == 0 {
 			continue
@@ -71,20 +71,6 @@ func Parse(text string) ([]Event, error) {
 	return l, nil
 }
 
-// lines are a text's, each with the place of its first byte.
-func lines(text string) iter.Seq2[int, string] {
-	return func(yield func(int, string) bool) {
-		place := 0
-		for {
-			s, rest, more := strings.Cut(text[place:], "\n")
-			if !yield(place, s) || !more {
-				return
-			}
-			place = len(text) - len(rest)
-		}
-	}
-}
-
 // words takes nothing but the blank for one: other white space is a part of a word, which then is no number and no name.
 func words(s string) []string {
 	return strings.FieldsFunc(s, func(r rune) bool { return r == ' ' })
@@ -97,7 +83,7 @@ func parseWords(w []string) (Event, api.Errno) {
 	}
 	var numbers [5]int
 	for i, s := range [...]string{w[0], w[3], w[4], w[5], w[6]} {
-		n, ok := number(s)
+		n, ok := texts.Number(s)
 		if !ok {
 			return Event{}, api.ErrForm
 		}
@@ -109,13 +95,4 @@ func parseWords(w []string) (Event, api.Errno) {
 	}
 	e := Event{Proc: numbers[0], Type: what, Kind: kind, Key: numbers[1], A: numbers[2], B: numbers[3], Result: numbers[4]}
 	return e, fault(e)
-}
-
-// number reads one that is written as Text would: no + and no nought ahead, and 0 without -.
-func number(s string) (int, bool) {
-	n, err := strconv.ParseInt(s, 10, 64)
-	if err != nil || strconv.FormatInt(n, 10) != s {
-		return 0, false
-	}
-	return int(n), true
 }
