@@ -118,3 +118,16 @@ func readVerdict(verdict, order string) (linear.Verdict, bool) {
 	}
 	return v, ok
 }
+
+// numbers are those of a text, one at least, with one blank between.
+func numbers(text string) ([]int, bool) {
+	var l []int
+	for _, word := range strings.Split(text, " ") {
+		n, ok := texts.Number(word)
+		if !ok {
+			return nil, false
+		}
+		l = append(l, n)
+	}
+	return l, true
+}

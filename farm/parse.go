@@ -1,6 +1,7 @@
 package farm
 
 import (
+	"slices"
 	"strings"
 
 	"testimony/api"
@@ -71,30 +72,21 @@ func (p *Plan) hear(name, rest string) api.Errno {
 	return api.OK
 }
 
-// hearNumbers reads just as many numbers as there are places for them, with one blank between.
+// hearNumbers reads just as many numbers as there are places for them, with one blank between. Whatever is wrong with one is told ahead of what is wrong with the next one.
 func hearNumbers(text string, places ...*int) api.Errno {
-	l, ok := numbers(text)
-	if !ok || len(l) != len(places) {
+	words := strings.Split(text, " ")
+	if len(words) != len(places) || slices.Contains(words, "") {
 		return api.ErrForm
 	}
-	for i, n := range l {
+	for i, word := range words {
+		n, ok := texts.Number(word)
+		if !ok {
+			return api.ErrForm
+		}
 		if !isBudget(n) {
 			return api.ErrRange
 		}
 		*places[i] = n
 	}
 	return api.OK
-}
-
-// numbers are those of a text, one at least, with one blank between.
-func numbers(text string) ([]int, bool) {
-	var l []int
-	for _, word := range strings.Split(text, " ") {
-		n, ok := texts.Number(word)
-		if !ok {
-			return nil, false
-		}
-		l = append(l, n)
-	}
-	return l, true
 }

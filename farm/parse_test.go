@@ -108,8 +108,11 @@ func TestParseNumbers(t *testing.T) {
 	}{
 		{"", api.ErrForm}, {" 2", api.ErrForm}, {" 2 2 2", api.ErrForm}, {" 2  2", api.ErrForm}, {"  2 2", api.ErrForm}, {" 2 2 ", api.ErrForm}, {" 2,2", api.ErrForm}, {" x 2", api.ErrForm}, {" 2 x", api.ErrForm}, {" 2\t2", api.ErrForm},
 		{" -1 2", api.ErrRange}, {" 2 -1", api.ErrRange}, {" 1000001 2", api.ErrRange}, {" 2 1000001", api.ErrRange},
-		// Whether all are numbers is told first.
-		{" -1 x", api.ErrForm}, {" x -1", api.ErrForm}, {" -1 2 3", api.ErrForm},
+		// The first one's error is told ahead of the second one's.
+		{" -1 x", api.ErrRange}, {" 1000001 x", api.ErrRange}, {" 1000001 02", api.ErrRange}, {" -1 99999999999999999999", api.ErrRange}, {" -1 -1", api.ErrRange},
+		{" x -1", api.ErrForm}, {" 02 1000001", api.ErrForm}, {" 99999999999999999999 -1", api.ErrForm}, {" -0 -1", api.ErrForm},
+		// Whether there are two, with a blank between, is told ahead of both.
+		{" -1", api.ErrForm}, {" -1 ", api.ErrForm}, {"  -1", api.ErrForm}, {" -1 2 3", api.ErrForm}, {" -1 2 ", api.ErrForm}, {" -1  2", api.ErrForm}, {"  -1 2", api.ErrForm}, {" -1\t2", api.ErrForm},
 	} {
 		checkFault(t, "title a\nquorum"+c.rest+"\nnonsense", c.want, 8)
 	}

@@ -2,6 +2,7 @@ package farm_test
 
 import (
 	"fmt"
+	"math"
 	"regexp"
 	"slices"
 	"strconv"
@@ -326,7 +327,7 @@ func TestReadIsPlain(t *testing.T) {
 func drawnLine(d *die) string {
 	names := []string{"title", "gen", "back", "nodes", "clients", "quorum", "budget", "nodes", "clients", "quorum", "gen", "", "node"}
 	name := names[d.n(len(names))]
-	numbers := []string{"0", "1", "2", "3", "3", "2", "1", "8", "-1", "x", "1000001"}
+	numbers := []string{"0", "1", "2", "3", "3", "2", "1", "8", "-1", "x", "1000001", "02"}
 	one := numbers[d.n(len(numbers)/(1+d.n(2)))]
 	two := numbers[d.n(len(numbers)/(1+d.n(2)))]
 	rest := map[string][]string{
@@ -339,12 +340,11 @@ func drawnLine(d *die) string {
 	return name + rest[d.n(len(rest))]
 }
 
-// plainFault is what is wrong with a line, whose words are taken apart by a form.
+// plainFault is what is wrong with a line, whose words are taken apart by a form, number by number.
 func plainFault(line string) api.Errno {
 	forms := map[string]string{
 		"title": `^title( .*)?$`, "gen": `^gen( .*)?$`, "back": `^back (yes|no)$`,
-		"nodes": `^nodes ` + number + `$`, "clients": `^clients ` + number + `$`, "budget": `^budget ` + number + `$`,
-		"quorum": `^quorum ` + number + ` ` + number + `$`,
+		"nodes": `^nodes [^ ]+$`, "clients": `^clients [^ ]+$`, "budget": `^budget [^ ]+$`, "quorum": `^quorum [^ ]+ [^ ]+$`,
 	}
 	name := strings.Split(line, " ")[0]
 	form, known := forms[name]
@@ -356,8 +356,16 @@ func plainFault(line string) api.Errno {
 	case name == "gen":
 		_, err := gen.Parse(strings.TrimPrefix(strings.TrimPrefix(line, "gen"), " "))
 		return api.Tell(err)
-	case name != "title" && name != "back" && !wide(line[len(name):], 0, api.MaxBudget):
-		return api.ErrRange
+	case name == "title" || name == "back":
+		return api.OK
+	}
+	for _, word := range strings.Split(line, " ")[1:] {
+		if !regexp.MustCompile(`^`+number+`$`).MatchString(word) || !wide(word, math.MinInt, math.MaxInt) {
+			return api.ErrForm
+		}
+		if !wide(word, 0, api.MaxBudget) {
+			return api.ErrRange
+		}
 	}
 	return api.OK
 }
