@@ -55,7 +55,7 @@ func Parse(text string) ([]Event, error) {
 	}
 	var l []Event
 	for place, s := range texts.Lines(text) {
-		w := words(s)
+		w := texts.Words(s)
 		if len(w) == 0 {
 			continue
 		}
@@ -69,11 +69,6 @@ func Parse(text string) ([]Event, error) {
 		l = append(l, e)
 	}
 	return l, nil
-}
-
-// words takes nothing but the blank for one: other white space is a part of a word, which then is no number and no name.
-func words(s string) []string {
-	return strings.FieldsFunc(s, func(r rune) bool { return r == ' ' })
 }
 
 // parseWords makes an event of a line's words.

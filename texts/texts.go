@@ -1,4 +1,4 @@
-// Package texts: lines and numbers, as the chapters' texts have them.
+// Package texts: lines, words and numbers, as the chapters' texts have them.
 package texts
 
 import (
@@ -19,6 +19,11 @@ func Lines(text string) iter.Seq2[int, string] {
 			place = len(text) - len(rest)
 		}
 	}
+}
+
+// Words are a line's, with blanks between. Nothing but the blank is one: other white space is a part of a word, which then is no number and no name.
+func Words(line string) []string {
+	return strings.FieldsFunc(line, func(r rune) bool { return r == ' ' })
 }
 
 // Number reads one of 64 bits: no + and no nought ahead, and 0 without -.

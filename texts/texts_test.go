@@ -39,6 +39,21 @@ func TestLinesStop(t *testing.T) {
 	}
 }
 
+func TestWords(t *testing.T) {
+	for _, c := range []struct{ line, want string }{
+		{"", `[]`},
+		{"   ", `[]`},
+		{"a", `["a"]`},
+		{"  a bc   d ", `["a" "bc" "d"]`},
+		{"a\tb \r \u00a0", `["a\tb" "\r" "\u00a0"]`},
+		{"\xff \x20\xe2\x80", `["\xff" "\xe2\x80"]`},
+	} {
+		if got := fmt.Sprintf("%q", texts.Words(c.line)); got != c.want {
+			t.Errorf("%q: %s, not %s", c.line, got, c.want)
+		}
+	}
+}
+
 func TestNumber(t *testing.T) {
 	for _, c := range []struct {
 		text string
